@@ -17,9 +17,12 @@ const (
 // least, so that one level more takes 127 keys, and there are only 100.
 const deepest = 6
 
-// endless is a depth: a deeper tree counts as one without end. Go ends the whole
-// program if calls lie too deep within each other, and nothing recovers from it.
-const endless = 1 << 20
+// What one comes by on the way through a tree.
+const (
+	nodeBegins = iota
+	keyStands
+	nodeEnds
+)
 
 // misfit is what a reader panics with.
 const misfit = "the text of no tree"
@@ -41,11 +44,22 @@ func TreeValid(t Tree, wide int) bool {
 
 // FormatTree returns the text of a tree.
 func FormatTree(t Tree) string {
-	root := plant(t)
-	if root == nil {
-		return ""
+	var text []byte
+	for s := range t.steps {
+		if s.what == nodeEnds {
+			text = append(text, ')')
+			continue
+		}
+		if last := len(text) - 1; last >= 0 && text[last] != '(' {
+			text = append(text, ' ')
+		}
+		if s.what == nodeBegins {
+			text = append(text, '(')
+		} else {
+			text = strconv.AppendInt(text, int64(s.key), 10)
+		}
 	}
-	return string(root.appendText(nil))
+	return string(text)
 }
 
 // ParseTree parses the text of a tree.
@@ -66,38 +80,69 @@ func ParseTree(text string) (t Tree, ok bool) {
 
 // KeysOf returns all keys of a tree, in order.
 func KeysOf(t Tree) []int {
-	return slices.Collect(plant(t).inOrder)
+	var keys []int
+	for s := range t.steps {
+		if s.what == keyStands {
+			keys = append(keys, s.key)
+		}
+	}
+	return keys
 }
 
 // DepthOf returns how many nodes lie within each other.
 func DepthOf(t Tree) int {
-	deep := 0
-	for depth := range plant(t).byLevel {
-		deep = depth
+	depth, deep := 0, 0
+	for s := range t.steps {
+		switch s.what {
+		case nodeBegins:
+			depth++
+			deep = max(deep, depth)
+		case nodeEnds:
+			depth--
+		}
 	}
 	return deep
 }
 
 // CountNodes returns how many nodes a tree has.
 func CountNodes(t Tree) int {
-	return plant(t).size()
+	count := 0
+	for s := range t.steps {
+		if s.what == nodeBegins {
+			count++
+		}
+	}
+	return count
 }
 
 // SameTree reports whether two trees are the same.
 func SameTree(a Tree, b Tree) bool {
-	x, y := plant(a), plant(b)
-	return x != nil && y != nil && x.same(y)
+	if !a.hasEnd() {
+		return false
+	}
+	left := []pair{{&a, &b}}
+	for len(left) > 0 {
+		next := left[len(left)-1]
+		left = left[:len(left)-1]
+		if !slices.Equal(next.a.Keys, next.b.Keys) || len(next.a.Kids) != len(next.b.Kids) {
+			return false
+		}
+		for i := range next.a.Kids {
+			left = append(left, pair{&next.a.Kids[i], &next.b.Kids[i]})
+		}
+	}
+	return true
 }
 
 // LevelOf returns the keys of all nodes at a depth.
 func LevelOf(t Tree, depth int) []int {
 	var level []int
-	for at, n := range plant(t).byLevel {
+	for at, n := range t.byLevel {
 		if at > depth {
 			break
 		}
 		if at == depth {
-			level = append(level, n.keys...)
+			level = append(level, n.Keys...)
 		}
 	}
 	return level
@@ -106,8 +151,8 @@ func LevelOf(t Tree, depth int) []int {
 // FullNodes returns how many nodes have as many keys as they may have.
 func FullNodes(t Tree, wide int) int {
 	full := 0
-	for _, n := range plant(t).byLevel {
-		if len(n.keys) == wide {
+	for s := range t.steps {
+		if s.what == nodeBegins && len(s.Keys) == wide {
 			full++
 		}
 	}
@@ -150,53 +195,134 @@ func evenDepth(t *Tree, least int, wide int, limit int) int {
 	return depth + 1
 }
 
+// A pair is two nodes that stand at the same place of two trees.
+type pair struct {
+	a, b *Tree
+}
+
+// A spot is a node on the way down to where one stands, and how many of its
+// parts lie behind: of its kids, or of its kids and keys by turns.
+type spot struct {
+	*Tree
+	passed int
+}
+
+// A step is what one comes by on the way through a tree, the node, and the key
+// if it is one.
+type step struct {
+	*Tree
+	what int
+	key  int
+}
+
+// hasEnd reports whether a tree is none whose Kids hold themselves: such a tree
+// has no text and no depth. It goes but once through Kids that several nodes
+// share. The way down is a slice, as Go ends the whole program if calls lie too
+// deep within each other, and nothing recovers from it.
+func (t *Tree) hasEnd() bool {
+	isBehind := map[*Tree]bool{}
+	way := []spot{{Tree: t}}
+	for len(way) > 0 {
+		last := &way[len(way)-1]
+		if last.passed == len(last.Kids) {
+			isBehind[last.Tree] = true
+			way = way[:len(way)-1]
+			continue
+		}
+		kid := &last.Kids[last.passed]
+		last.passed++
+		behind, isKnown := isBehind[kid]
+		if isKnown && !behind {
+			return false
+		}
+		if !isKnown {
+			isBehind[kid] = false
+			way = append(way, spot{Tree: kid})
+		}
+	}
+	return true
+}
+
+// steps yields what one comes by if one goes through a tree in order; nothing
+// if it has no end.
+func (t *Tree) steps(yield func(step) bool) {
+	if !t.hasEnd() || !yield(step{t, nodeBegins, 0}) {
+		return
+	}
+	way := []spot{{Tree: t}}
+	for len(way) > 0 {
+		last := &way[len(way)-1]
+		n, i, isKey := last.Tree, last.passed/2, last.passed%2 == 1
+		last.passed++
+		goOn := true
+		switch {
+		case i >= max(len(n.Kids), len(n.Keys)):
+			goOn = yield(step{n, nodeEnds, 0})
+			way = way[:len(way)-1]
+		case isKey && i < len(n.Keys):
+			goOn = yield(step{n, keyStands, n.Keys[i]})
+		case !isKey && i < len(n.Kids):
+			goOn = yield(step{&n.Kids[i], nodeBegins, 0})
+			way = append(way, spot{Tree: &n.Kids[i]})
+		}
+		if !goOn {
+			return
+		}
+	}
+}
+
+// byLevel yields all nodes and their depths, from the tree itself on, level by
+// level; none if it has no end. Each queue has room for a whole level, so that
+// no send has to wait.
+func (t *Tree) byLevel(yield func(int, *Tree) bool) {
+	if !t.hasEnd() {
+		return
+	}
+	level, below := make(chan *Tree, 1), len(t.Kids)
+	level <- t
+	for depth := 1; len(level) > 0; depth++ {
+		next := make(chan *Tree, below)
+		below = 0
+		for range len(level) {
+			n := <-level
+			if !yield(depth, n) {
+				return
+			}
+			for i := range n.Kids {
+				next <- &n.Kids[i]
+				below += len(n.Kids[i].Kids)
+			}
+		}
+		level = next
+	}
+}
+
 // A row is the keys of one node.
 type row struct {
 	keys []int
 }
 
-// A node is a copy of a tree, with which it shares no memory. Where a tree has
-// no end, nil stands for its node.
+// A node is a copy of a tree, with which it shares no memory.
 type node struct {
 	row
 	kids []*node
 }
 
-// plant returns the node that is a copy of a tree, or nil if the tree has no
-// end because Kids of it hold themselves: such a tree has no text and no depth.
+// plant returns the node that is a copy of a tree, which must not be too deep
+// for calls within each other.
 func plant(t Tree) *node {
-	return plantWithin(&t, map[*Tree]bool{})
-}
-
-// plantWithin does this for a tree that lies within others.
-func plantWithin(t *Tree, within map[*Tree]bool) *node {
-	if within[t] || len(within) == endless {
-		return nil
-	}
 	n := &node{row: row{keys: slices.Clone(t.Keys)}}
-	if len(t.Kids) == 0 {
-		return n
+	for _, kid := range t.Kids {
+		n.kids = append(n.kids, plant(kid))
 	}
-	within[t] = true
-	n.kids = make([]*node, len(t.Kids))
-	for i := range t.Kids {
-		n.kids[i] = plantWithin(&t.Kids[i], within)
-		if n.kids[i] == nil {
-			return nil
-		}
-	}
-	delete(within, t)
 	return n
 }
 
 // tree returns the tree that is a copy of a node.
 func (n *node) tree() Tree {
 	t := Tree{Keys: slices.Clone(n.keys)}
-	if len(n.kids) > 0 {
-		t.Kids = make([]Tree, len(n.kids))
-	}
-	for i, kid := range n.kids {
-		t.Kids[i] = kid.tree()
+	for _, kid := range n.kids {
+		t.Kids = append(t.Kids, kid.tree())
 	}
 	return t
 }
@@ -216,9 +342,7 @@ func (n *node) parts(yield func(*node, int) bool) {
 
 // inOrder yields all keys in order.
 func (n *node) inOrder(yield func(int) bool) {
-	if n != nil {
-		n.yieldKeys(yield)
-	}
+	n.yieldKeys(yield)
 }
 
 // yieldKeys yields all keys in order, and reports whether it got to the end.
@@ -244,67 +368,6 @@ func (n *node) ascends() bool {
 		last = key
 	}
 	return true
-}
-
-// size returns how many nodes there are.
-func (n *node) size() int {
-	if n == nil {
-		return 0
-	}
-	size := 1
-	for _, kid := range n.kids {
-		size += kid.size()
-	}
-	return size
-}
-
-// A waiting node is one in a queue, and the depth at which it lies.
-type waiting struct {
-	*node
-	depth int
-}
-
-// byLevel yields all nodes and their depths, from the node itself on, level by
-// level. The queue has room for all of them, so that no send has to wait.
-func (n *node) byLevel(yield func(int, *node) bool) {
-	if n == nil {
-		return
-	}
-	queue := make(chan waiting, n.size())
-	queue <- waiting{n, 1}
-	for left := 1; left > 0; left-- {
-		next := <-queue
-		if !yield(next.depth, next.node) {
-			return
-		}
-		for _, kid := range next.kids {
-			queue <- waiting{kid, next.depth + 1}
-		}
-		left += len(next.kids)
-	}
-}
-
-// same reports whether two nodes have the same keys and kids.
-func (n *node) same(other *node) bool {
-	return slices.Equal(n.keys, other.keys) && slices.EqualFunc(n.kids, other.kids, (*node).same)
-}
-
-// appendText appends the text of a node to a text.
-func (n *node) appendText(text []byte) []byte {
-	text = append(text, '(')
-	first := true
-	for kid, key := range n.parts {
-		if !first {
-			text = append(text, ' ')
-		}
-		first = false
-		if kid != nil {
-			text = kid.appendText(text)
-		} else {
-			text = strconv.AppendInt(text, int64(key), 10)
-		}
-	}
-	return append(text, ')')
 }
 
 // A reader stands at a place of a text and panics where nothing fits.

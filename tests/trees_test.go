@@ -639,6 +639,23 @@ func TestTreesThatHoldThemselves(t *testing.T) {
 	}
 }
 
+func TestTreesThatHoldThemselvesFarBelow(t *testing.T) {
+	for round := 1; round <= 9; round++ {
+		for above := range 9 {
+			last := over([]int{1}, leaf(0), leaf())
+			x := last
+			for range round - 1 {
+				x = over([]int{1}, leaf(0), x)
+			}
+			last.Kids[1] = x
+			for range above {
+				x = over([]int{3, 5}, leaf(2), x, leaf(4))
+			}
+			checkEndless(t, x)
+		}
+	}
+}
+
 // checkEndless checks that functions return for a tree that holds itself, and that no text, key or node is told of it.
 func checkEndless(t *testing.T, x impl.Tree) {
 	t.Helper()
@@ -675,28 +692,72 @@ func TestTreesWithSharedKids(t *testing.T) {
 	}
 }
 
+func TestTreesWithMoreNodesThanOneCanVisit(t *testing.T) {
+	x := leaf(1)
+	for range 60 {
+		x = over([]int{2}, x, x)
+	}
+	for depth := 1; depth <= 5; depth++ {
+		if got := impl.LevelOf(x, depth); len(got) != 1<<(depth-1) || got[0] != 2 {
+			t.Errorf("LevelOf(%d) = %v", depth, got)
+		}
+	}
+	for i, y := range []impl.Tree{leaf(), leaf(2), over([]int{2}, leaf(1), leaf(1)), over([]int{3}, x, x), over([]int{2}, x)} {
+		if impl.SameTree(x, y) || impl.SameTree(y, x) {
+			t.Errorf("it is the same as tree %d", i)
+		}
+	}
+}
+
 func TestDeepTrees(t *testing.T) {
-	const depth = 100000
-	x := leaf(7)
-	for range depth - 1 {
-		x = over([]int{5}, x)
-	}
-	text := strings.Repeat("(", depth-1) + "(7)" + strings.Repeat(" 5)", depth-1)
-	if impl.DepthOf(x) != depth || impl.CountNodes(x) != depth || len(impl.KeysOf(x)) != depth || impl.FullNodes(x, 1) != depth {
-		t.Error("a deep tree is not counted")
-	}
-	if impl.FormatTree(x) != text || !impl.SameTree(x, x) || !slices.Equal(impl.LevelOf(x, depth), []int{7}) || impl.TreeValid(x, 2) {
-		t.Error("a deep tree is not told")
-	}
+	checkDeep(t, 100000)
+	checkDeep(t, 1<<20+1)
 }
 
 func TestTreesTooDeepForCallsWithinCalls(t *testing.T) {
 	if testing.Short() {
 		t.Skip("it takes much memory")
 	}
-	x := leaf()
-	for range 4000000 {
+	const depth = 4000000
+	x := leaf(7)
+	for range depth - 1 {
 		x = over(nil, x)
 	}
-	impl.FormatTree(x) // Go would end the program, had it no limit.
+	if impl.DepthOf(x) != depth || !slices.Equal(impl.KeysOf(x), []int{7}) || len(impl.FormatTree(x)) != 2*depth+1 {
+		t.Error("it is not told")
+	}
+	if !slices.Equal(impl.LevelOf(x, depth), []int{7}) || !impl.SameTree(x, x) || impl.TreeValid(x, 2) {
+		t.Error("it is not looked through")
+	}
+}
+
+// checkDeep checks what is told of a tree of so many nodes, in which each one but the last has one kid and one key.
+func checkDeep(t *testing.T, depth int) {
+	t.Helper()
+	x, y := leaf(7), leaf(8)
+	for range depth - 1 {
+		x, y = over([]int{5}, x), over([]int{5}, y)
+	}
+	text := strings.Repeat("(", depth-1) + "(7)" + strings.Repeat(" 5)", depth-1)
+	if impl.FormatTree(x) != text {
+		t.Errorf("FormatTree of %d nodes", depth)
+	}
+	keys := impl.KeysOf(x)
+	if len(keys) != depth || keys[0] != 7 || slices.ContainsFunc(keys[1:], func(key int) bool { return key != 5 }) {
+		t.Errorf("KeysOf of %d nodes: %d keys", depth, len(keys))
+	}
+	if impl.DepthOf(x) != depth || impl.CountNodes(x) != depth || impl.FullNodes(x, 1) != depth || impl.FullNodes(x, 0) != 0 {
+		t.Errorf("a tree of %d nodes is not counted", depth)
+	}
+	if !slices.Equal(impl.LevelOf(x, depth), []int{7}) || !slices.Equal(impl.LevelOf(x, depth-1), []int{5}) || len(impl.LevelOf(x, depth+1)) != 0 {
+		t.Errorf("LevelOf of %d nodes", depth)
+	}
+	if !impl.SameTree(x, x) || impl.SameTree(x, y) || impl.SameTree(x, x.Kids[0]) || impl.SameTree(x.Kids[0], x) {
+		t.Errorf("SameTree of %d nodes", depth)
+	}
+	for wide := impl.MinWide; wide <= impl.MaxWide; wide++ {
+		if impl.TreeValid(x, wide) {
+			t.Errorf("TreeValid(%d) of %d nodes", wide, depth)
+		}
+	}
 }
