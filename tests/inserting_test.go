@@ -29,15 +29,24 @@ func putIn(x impl.Tree, wide, key int) ([]impl.Tree, []int, int) {
 		y.Kids = slices.Replace(y.Kids, at, at+1, nodes...)
 		splits = below
 	}
-	n := len(y.Keys)
+	if len(y.Keys) > wide {
+		splits++
+	}
+	nodes, between := halved(y, wide)
+	return nodes, between, splits
+}
+
+// halved says in other words what becomes of a node that may have too many keys: one node, or two and the key between them.
+func halved(x impl.Tree, wide int) ([]impl.Tree, []int) {
+	n := len(x.Keys)
 	if n <= wide {
-		return []impl.Tree{y}, nil, splits
+		return []impl.Tree{x}, nil
 	}
-	left, right := leaf(y.Keys[:n/2]...), leaf(y.Keys[n/2+1:]...)
-	if len(y.Kids) > 0 {
-		left.Kids, right.Kids = y.Kids[:n/2+1], y.Kids[n/2+1:]
+	left, right := leaf(x.Keys[:n/2]...), leaf(x.Keys[n/2+1:]...)
+	if len(x.Kids) > 0 {
+		left.Kids, right.Kids = x.Kids[:n/2+1], x.Kids[n/2+1:]
 	}
-	return []impl.Tree{left, right}, []int{y.Keys[n/2]}, splits + 1
+	return []impl.Tree{left, right}, []int{x.Keys[n/2]}
 }
 
 // withKey says in other words which tree a key makes of one that does not have it, how many nodes are split, and whether it grows.
