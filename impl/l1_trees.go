@@ -63,18 +63,11 @@ func FormatTree(t Tree) string {
 }
 
 // ParseTree parses the text of a tree.
-func ParseTree(text string) (t Tree, ok bool) {
-	defer func() {
-		if recover() != nil {
-			t, ok = Tree{}, false
-		}
-	}()
-	if len(text) > MaxText {
+func ParseTree(text string) (Tree, bool) {
+	var root *node
+	if len(text) > MaxText || !fits(text, func(r *reader) { root = r.node() }) {
 		return Tree{}, false
 	}
-	r := &reader{text: text}
-	root := r.node()
-	r.end()
 	return root.tree(), true
 }
 
@@ -374,6 +367,19 @@ func (n *node) ascends() bool {
 type reader struct {
 	text string
 	at   int
+}
+
+// fits reports whether a function can read a text, and nothing is left then.
+func fits(text string, read func(*reader)) (ok bool) {
+	defer func() {
+		if recover() != nil {
+			ok = false
+		}
+	}()
+	r := &reader{text: text}
+	read(r)
+	r.end()
+	return true
 }
 
 // sees reports whether a byte is the next one.
