@@ -1,6 +1,7 @@
 package impl
 
 import (
+	"iter"
 	"slices"
 	"strconv"
 )
@@ -39,7 +40,7 @@ func TreeValid(t Tree, wide int) bool {
 		return false
 	}
 	least := min(len(t.Kids), 1)
-	return evenDepth(&t, least, wide, deepest) > 0 && plant(t).ascends()
+	return evenDepth(&t, least, wide, deepest) > 0 && ascend(plant(t).inOrder)
 }
 
 // FormatTree returns the text of a tree.
@@ -84,17 +85,7 @@ func KeysOf(t Tree) []int {
 
 // DepthOf returns how many nodes lie within each other.
 func DepthOf(t Tree) int {
-	depth, deep := 0, 0
-	for s := range t.steps {
-		switch s.what {
-		case nodeBegins:
-			depth++
-			deep = max(deep, depth)
-		case nodeEnds:
-			depth--
-		}
-	}
-	return deep
+	return nesting(&t, kidsOf)
 }
 
 // CountNodes returns how many nodes a tree has.
@@ -110,7 +101,7 @@ func CountNodes(t Tree) int {
 
 // SameTree reports whether two trees are the same.
 func SameTree(a Tree, b Tree) bool {
-	if !a.hasEnd() {
+	if nesting(&a, kidsOf) == 0 {
 		return false
 	}
 	left := []pair{{&a, &b}}
@@ -193,13 +184,6 @@ type pair struct {
 	a, b *Tree
 }
 
-// A spot is a node on the way down to where one stands, and how many of its
-// parts lie behind: of its kids, or of its kids and keys by turns.
-type spot struct {
-	*Tree
-	passed int
-}
-
 // A step is what one comes by on the way through a tree, the node, and the key
 // if it is one.
 type step struct {
@@ -208,67 +192,110 @@ type step struct {
 	key  int
 }
 
-// hasEnd reports whether a tree is none whose Kids hold themselves: such a tree
-// has no text and no depth. It goes but once through Kids that several nodes
-// share. The way down is a slice, as Go ends the whole program if calls lie too
-// deep within each other, and nothing recovers from it.
-func (t *Tree) hasEnd() bool {
-	isBehind := map[*Tree]bool{}
-	way := []spot{{Tree: t}}
+// A spot is a node on the way down to where one stands, and how many of its kids
+// lie behind.
+type spot[T any] struct {
+	node   *T
+	passed int
+}
+
+// nesting returns how many nodes lie within each other at most, or 0 for a tree
+// whose Kids hold themselves: it has no end, and so no text and no depth. It goes
+// but once through Kids that several nodes share. The way down is a slice, as Go
+// ends the whole program if calls lie too deep within each other, and nothing
+// recovers from it.
+func nesting[T any](root *T, kidsOf func(*T) []T) int {
+	depths := map[*T]int{root: 0}
+	way := []spot[T]{{node: root}}
 	for len(way) > 0 {
 		last := &way[len(way)-1]
-		if last.passed == len(last.Kids) {
-			isBehind[last.Tree] = true
+		kids := kidsOf(last.node)
+		if last.passed == len(kids) {
+			below := 0
+			for i := range kids {
+				below = max(below, depths[&kids[i]])
+			}
+			depths[last.node] = below + 1
 			way = way[:len(way)-1]
 			continue
 		}
-		kid := &last.Kids[last.passed]
+		kid := &kids[last.passed]
 		last.passed++
-		behind, isKnown := isBehind[kid]
-		if isKnown && !behind {
-			return false
+		depth, isKnown := depths[kid]
+		if isKnown && depth == 0 {
+			return 0
 		}
 		if !isKnown {
-			isBehind[kid] = false
-			way = append(way, spot{Tree: kid})
+			depths[kid] = 0
+			way = append(way, spot[T]{node: kid})
 		}
 	}
-	return true
+	return depths[root]
+}
+
+// turns yields each node of a tree as often as one stands at it on the way
+// through, and how many of its kids lie behind then: first none, and in the end
+// all. It yields nothing if the tree has no end.
+func turns[T any](root *T, kidsOf func(*T) []T) iter.Seq2[*T, int] {
+	return func(yield func(*T, int) bool) {
+		if nesting(root, kidsOf) == 0 {
+			return
+		}
+		way := []spot[T]{{node: root}}
+		for len(way) > 0 {
+			last := &way[len(way)-1]
+			n, passed := last.node, last.passed
+			if !yield(n, passed) {
+				return
+			}
+			last.passed++
+			if kids := kidsOf(n); passed < len(kids) {
+				way = append(way, spot[T]{node: &kids[passed]})
+			} else {
+				way = way[:len(way)-1]
+			}
+		}
+	}
+}
+
+// kidsOf returns the kids of a tree.
+func kidsOf(t *Tree) []Tree {
+	return t.Kids
 }
 
 // steps yields what one comes by if one goes through a tree in order; nothing
 // if it has no end.
 func (t *Tree) steps(yield func(step) bool) {
-	if !t.hasEnd() || !yield(step{t, nodeBegins, 0}) {
-		return
-	}
-	way := []spot{{Tree: t}}
-	for len(way) > 0 {
-		last := &way[len(way)-1]
-		n, i, isKey := last.Tree, last.passed/2, last.passed%2 == 1
-		last.passed++
-		goOn := true
-		switch {
-		case i >= max(len(n.Kids), len(n.Keys)):
-			goOn = yield(step{n, nodeEnds, 0})
-			way = way[:len(way)-1]
-		case isKey && i < len(n.Keys):
-			goOn = yield(step{n, keyStands, n.Keys[i]})
-		case !isKey && i < len(n.Kids):
-			goOn = yield(step{&n.Kids[i], nodeBegins, 0})
-			way = append(way, spot{Tree: &n.Kids[i]})
+	for n, passed := range turns(t, kidsOf) {
+		if passed == 0 && !yield(step{n, nodeBegins, 0}) {
+			return
 		}
-		if !goOn {
+		for _, key := range n.keysBehind(passed) {
+			if !yield(step{n, keyStands, key}) {
+				return
+			}
+		}
+		if passed == len(n.Kids) && !yield(step{n, nodeEnds, 0}) {
 			return
 		}
 	}
+}
+
+// keysBehind returns the Keys that stand between as many kids of a tree and the
+// next one: one or none, but all that are left if there is no next one.
+func (t *Tree) keysBehind(passed int) []int {
+	start, end := min(max(passed-1, 0), len(t.Keys)), min(passed, len(t.Keys))
+	if passed == len(t.Kids) {
+		end = len(t.Keys)
+	}
+	return t.Keys[start:end:end]
 }
 
 // byLevel yields all nodes and their depths, from the tree itself on, level by
 // level; none if it has no end. Each queue has room for a whole level, so that
 // no send has to wait.
 func (t *Tree) byLevel(yield func(int, *Tree) bool) {
-	if !t.hasEnd() {
+	if nesting(t, kidsOf) == 0 {
 		return
 	}
 	level, below := make(chan *Tree, 1), len(t.Kids)
@@ -351,14 +378,14 @@ func (n *node) yieldKeys(yield func(int) bool) bool {
 	return true
 }
 
-// ascends reports whether the keys in order are keys, and ascend.
-func (n *node) ascends() bool {
+// ascend reports whether numbers are keys, and ascend.
+func ascend(numbers iter.Seq[int]) bool {
 	last := -1
-	for key := range n.inOrder {
-		if key <= last || !isKey(key) {
+	for number := range numbers {
+		if number <= last || !isKey(number) {
 			return false
 		}
-		last = key
+		last = number
 	}
 	return true
 }

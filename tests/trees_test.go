@@ -506,31 +506,37 @@ func textsOf(size int) map[string]impl.Tree {
 	return all
 }
 
+// everyText calls a function with each text of so many bytes that are some of others.
+func everyText(bytes string, size int, check func(text string)) {
+	text := make([]byte, size)
+	var try func(at int)
+	try = func(at int) {
+		if at == size {
+			check(string(text))
+			return
+		}
+		for i := range len(bytes) {
+			text[at] = bytes[i]
+			try(at + 1)
+		}
+	}
+	try(0)
+}
+
 func TestParseTreeAllShortTexts(t *testing.T) {
-	const bytes = "() 05"
 	for size := range 10 {
 		good := textsOf(size)
 		parsedTexts := 0
-		text := make([]byte, size)
-		var try func(at int)
-		try = func(at int) {
-			if at < size {
-				for i := range len(bytes) {
-					text[at] = bytes[i]
-					try(at + 1)
-				}
-				return
-			}
-			want, isGood := good[string(text)]
-			got, ok := impl.ParseTree(string(text))
+		everyText("() 05", size, func(text string) {
+			want, isGood := good[text]
+			got, ok := impl.ParseTree(text)
 			if ok != isGood || !impl.SameTree(got, want) {
 				t.Fatalf("ParseTree(%q) = %v, %v", text, got, ok)
 			}
 			if ok {
 				parsedTexts++
 			}
-		}
-		try(0)
+		})
 		if parsedTexts != len(good) {
 			t.Errorf("%d of %d texts of %d bytes", parsedTexts, len(good), size)
 		}
